@@ -2,14 +2,20 @@
 package cairn
 
 import (
+	"sync"
+
 	"cairn/api"
 	"cairn/code"
 	"cairn/disk"
 	"cairn/field"
+	"cairn/shelf"
 )
 
 // Store has blobs.
-type Store struct{}
+type Store struct {
+	lock  sync.Mutex
+	blobs shelf.Shelf
+}
 
 // Mul multiplies (P3).
 func Mul(a byte, b byte) byte { return field.Mul(a, b) }
@@ -63,28 +69,74 @@ func join(shards []string, have []bool) (data string, err api.Errno) {
 }
 
 // Open makes a store of what is on a disk (P6, P10).
-func Open(d *disk.Disk) (*Store, api.Errno) { return nil, api.OK }
+func Open(d *disk.Disk) (*Store, api.Errno) { return &Store{}, api.OK }
 
 // Put takes a blob (P6).
-func (s *Store) Put(key string, blob string) api.Errno { return api.OK }
+func (s *Store) Put(key string, blob string) api.Errno {
+	s.lock.Lock()
+	defer s.lock.Unlock()
+	err := s.blobs.MayPut(key, blob)
+	if err == api.OK {
+		s.blobs.Put(key, blob)
+	}
+	return err
+}
 
 // Get tells a blob (P7).
-func (s *Store) Get(key string) (string, api.Errno) { return "", api.OK }
+func (s *Store) Get(key string) (string, api.Errno) {
+	s.lock.Lock()
+	defer s.lock.Unlock()
+	return s.blobs.Get(key)
+}
 
 // GetAll tells blobs (P7).
-func (s *Store) GetAll(keys []string) []api.Answer { return nil }
+func (s *Store) GetAll(keys []string) []api.Answer {
+	s.lock.Lock()
+	defer s.lock.Unlock()
+	out := make([]api.Answer, len(keys))
+	var all sync.WaitGroup
+	for i, key := range keys {
+		all.Add(1)
+		go func() {
+			defer all.Done()
+			out[i].Blob, out[i].Err = s.blobs.Get(key)
+		}()
+	}
+	all.Wait()
+	return out
+}
 
 // Delete lets a key be dead (P7).
-func (s *Store) Delete(key string) api.Errno { return api.OK }
+func (s *Store) Delete(key string) api.Errno {
+	s.lock.Lock()
+	defer s.lock.Unlock()
+	_, err := s.blobs.Get(key)
+	if err == api.OK {
+		s.blobs.Delete(key)
+	}
+	return err
+}
 
 // Keys tells live keys (P8).
-func (s *Store) Keys(after string, n int) []string { return nil }
+func (s *Store) Keys(after string, n int) []string {
+	s.lock.Lock()
+	defer s.lock.Unlock()
+	return s.blobs.Keys(after, n)
+}
 
 // Largest tells the keys of the largest blobs (P8).
-func (s *Store) Largest(n int) []string { return nil }
+func (s *Store) Largest(n int) []string {
+	s.lock.Lock()
+	defer s.lock.Unlock()
+	return s.blobs.Largest(n)
+}
 
 // Stats tells how it is (P8).
-func (s *Store) Stats() api.Stats { return api.Stats{} }
+func (s *Store) Stats() api.Stats {
+	s.lock.Lock()
+	defer s.lock.Unlock()
+	return s.blobs.Stats()
+}
 
 // Seal packs all (P9).
 func (s *Store) Seal() api.Errno { return api.OK }

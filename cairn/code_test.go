@@ -276,11 +276,11 @@ func TestP2FreshLists(t *testing.T) {
 	}
 }
 
-func TestP2NoGoroutineIsLeft(t *testing.T) {
+// leavesNoGoroutine tells whether none is left of what a function started.
+func leavesNoGoroutine(t *testing.T, f func()) {
+	t.Helper()
 	before := runtime.NumGoroutine()
-	for range 50 {
-		cairn.Whole(mustShards(t, "some bytes"), places(everyPlace))
-	}
+	f()
 	// One that has told its end may still be on its last instructions.
 	for range 100 {
 		if runtime.NumGoroutine() <= before {
@@ -289,6 +289,14 @@ func TestP2NoGoroutineIsLeft(t *testing.T) {
 		time.Sleep(10 * time.Millisecond)
 	}
 	t.Errorf("P2: %d goroutines, %d ahead of the calls", runtime.NumGoroutine(), before)
+}
+
+func TestP2NoGoroutineIsLeft(t *testing.T) {
+	leavesNoGoroutine(t, func() {
+		for range 50 {
+			cairn.Whole(mustShards(t, "some bytes"), places(everyPlace))
+		}
+	})
 }
 
 func TestP2CallsAtOnce(t *testing.T) {
