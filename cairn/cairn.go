@@ -8,13 +8,15 @@ import (
 	"cairn/code"
 	"cairn/disk"
 	"cairn/field"
+	"cairn/rack"
 	"cairn/shelf"
 )
 
-// Store has blobs.
+// Store has blobs, and the devices on which they lie.
 type Store struct {
-	lock  sync.Mutex
-	blobs shelf.Shelf
+	lock    sync.Mutex
+	devices rack.Rack
+	blobs   shelf.Shelf
 }
 
 // Mul multiplies (P3).
@@ -68,18 +70,60 @@ func join(shards []string, have []bool) (data string, err api.Errno) {
 	return code.Join(shards, have), api.OK
 }
 
-// Open makes a store of what is on a disk (P6, P10).
-func Open(d *disk.Disk) (*Store, api.Errno) { return &Store{}, api.OK }
+// Open makes a store of what is on a disk (P6, P10). What it found is settled ahead of the answer: else a later harm could take what was told, and the rest of a call that was cut off could get in the way of the next one.
+func Open(d *disk.Disk) (*Store, api.Errno) {
+	if d.Stopped() {
+		return nil, api.ErrDown
+	}
+	devices := rack.On(d)
+	blobs, err := read(devices)
+	if err != api.OK {
+		return nil, err
+	}
+	s := &Store{devices: devices, blobs: blobs}
+	if err := s.settle(); err != api.OK {
+		return nil, err
+	}
+	return s, api.OK
+}
+
+// read catches what the readers of devices give up with: ErrCode, if the disk is not within bounds, or somebody else wrote on it.
+func read(devices rack.Rack) (blobs shelf.Shelf, err api.Errno) {
+	defer func() {
+		if recover() != nil {
+			blobs, err = shelf.Shelf{}, api.ErrCode
+		}
+	}()
+	return shelf.Unpack(devices.Newest()), api.OK
+}
+
+// settle lets all that the store has, and nothing else, lie on the devices, whole and safe.
+func (s *Store) settle() api.Errno {
+	if !s.devices.Settle(s.blobs.Changes(), s.blobs.Pack()) {
+		return api.ErrDown
+	}
+	return api.OK
+}
+
+// turn lets the store have what was changed, if it can be made safe.
+func (s *Store) turn(changed shelf.Shelf) api.Errno {
+	if !s.devices.Lay(changed.Changes(), changed.Pack()) {
+		return api.ErrDown
+	}
+	s.blobs = changed
+	return api.OK
+}
 
 // Put takes a blob (P6).
 func (s *Store) Put(key string, blob string) api.Errno {
 	s.lock.Lock()
 	defer s.lock.Unlock()
-	err := s.blobs.MayPut(key, blob)
-	if err == api.OK {
-		s.blobs.Put(key, blob)
+	if err := s.blobs.MayPut(key, blob); err != api.OK {
+		return err
 	}
-	return err
+	changed := s.blobs.Clone()
+	changed.Put(key, blob)
+	return s.turn(changed)
 }
 
 // Get tells a blob (P7).
@@ -110,11 +154,12 @@ func (s *Store) GetAll(keys []string) []api.Answer {
 func (s *Store) Delete(key string) api.Errno {
 	s.lock.Lock()
 	defer s.lock.Unlock()
-	_, err := s.blobs.Get(key)
-	if err == api.OK {
-		s.blobs.Delete(key)
+	if _, err := s.blobs.Get(key); err != api.OK {
+		return err
 	}
-	return err
+	changed := s.blobs.Clone()
+	changed.Delete(key)
+	return s.turn(changed)
 }
 
 // Keys tells live keys (P8).
@@ -138,8 +183,16 @@ func (s *Store) Stats() api.Stats {
 	return s.blobs.Stats()
 }
 
-// Seal packs all (P9).
-func (s *Store) Seal() api.Errno { return api.OK }
+// Seal packs all (P9): what is settled lies there once, in fewer bytes than the bound lets it.
+func (s *Store) Seal() api.Errno {
+	s.lock.Lock()
+	defer s.lock.Unlock()
+	return s.settle()
+}
 
-// Scrub makes all whole (P9).
-func (s *Store) Scrub() api.Errno { return api.OK }
+// Scrub makes all whole (P9): to settle is to look at each block that is ever written, and to write it again if it is not whole.
+func (s *Store) Scrub() api.Errno {
+	s.lock.Lock()
+	defer s.lock.Unlock()
+	return s.settle()
+}

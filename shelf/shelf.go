@@ -96,6 +96,17 @@ func (s *Shelf) Stats() api.Stats {
 	return out
 }
 
+// Clone tells a shelf that has the same, and goes its own way.
+func (s *Shelf) Clone() Shelf {
+	return Shelf{entries: slices.Clone(s.entries)}
+}
+
+// Changes tells how many puts and deletes have led here from a shelf without keys: no two shelves on the way have one number.
+func (s *Shelf) Changes() int {
+	now := s.Stats()
+	return now.Live + 2*now.Dead
+}
+
 // place tells where a key stands, or would stand, and whether it is there.
 func (s *Shelf) place(key string) (int, bool) {
 	return slices.BinarySearchFunc(s.entries, key, func(e entry, key string) int {
